@@ -464,20 +464,25 @@ func TestCover(t *testing.T) {
 	}
 }
 
-// P5.3: Cover with the zero rectangle.
+// P5.3: Cover with the zero rectangle, of which nothing is left, also when nothing is taken away.
 func TestZeroCover(t *testing.T) {
 	var zero plane.Rect
 	r, b := of(t, box(0, 4, 0, 4)), of(t, box(1, 2, 0, 4))
 	if got := plane.Cover(r, []plane.Rect{zero, b, zero}); !slices.Equal(tellAll(got), []sides{box(0, 1, 0, 4), box(2, 4, 0, 4)}) {
 		t.Errorf("Cover = %v", tellAll(got))
 	}
-	for _, l := range [][]plane.Rect{{b}, {zero}, {b, r}} {
-		if got := plane.Cover(zero, l); len(got) != 0 {
-			t.Errorf("Cover of zero = %v", tellAll(got))
+	for _, l := range [][]plane.Rect{nil, {zero}, {zero, zero}} {
+		if got := plane.Cover(r, l); !slices.Equal(got, []plane.Rect{r}) {
+			t.Errorf("Cover of a whole one, less %v, = %v", tellAll(l), tellAll(got))
 		}
 	}
-	if got := plane.Cover(zero, nil); !slices.Equal(got, []plane.Rect{zero}) {
-		t.Errorf("Cover of zero, when nothing is taken away, = %v", tellAll(got))
+	refused, _ := plane.Of(4, 4, sp(0, 4))
+	for _, none := range []plane.Rect{zero, zero.Turn(), refused} {
+		for _, l := range [][]plane.Rect{nil, {}, {zero}, {b}, {zero, b}, {b, zero}, {b, r}} {
+			if got := plane.Cover(none, l); len(got) != 0 {
+				t.Errorf("Cover of zero, less %v, = %v", tellAll(l), tellAll(got))
+			}
+		}
 	}
 }
 
@@ -485,7 +490,10 @@ func TestZeroCover(t *testing.T) {
 func checkCover(t *testing.T, r plane.Rect, l []plane.Rect) {
 	t.Helper()
 	left := plane.Cover(r, l)
-	want := []sides{tell(r)}
+	var want []sides
+	if may(tell(r)) {
+		want = append(want, tell(r))
+	}
 	for _, b := range l {
 		var next []sides
 		for _, a := range want {
